@@ -95,6 +95,15 @@ func numbersAround(lo int, hi int) []int {
 	return list
 }
 
+// draws returns a function that yields numbers in 0..n - 1, in the same order in every run.
+func draws() func(n int) int {
+	state := uint32(1)
+	return func(n int) int {
+		state = state*1664525 + 1013904223
+		return int(state>>16) % n
+	}
+}
+
 // allPrefixes returns every valid entry of a source, with that label.
 func allPrefixes(src int, label int) []impl.Punct {
 	list := []impl.Punct{}
@@ -321,11 +330,7 @@ func TestP6LongerPrefixWithAnyLabel(t *testing.T) {
 func TestP6SetAndDrop(t *testing.T) {
 	l := fan(t, 5)
 	var list []impl.Punct
-	state, fullTimes := uint32(1), 0
-	draw := func(n int) int {
-		state = state*1664525 + 1013904223
-		return int(state>>16) % n
-	}
+	draw, fullTimes := draws(), 0
 	for range 3000 {
 		all := allPrefixes(draw(2), draw(l.N))
 		p := all[draw(len(all))]
